@@ -1,0 +1,35 @@
+package wire
+
+const (
+	sumStart = 0xFFFFFFFF
+	sumTurn  = 0xEDB88320
+)
+
+// sumTable has for each byte what eight halvings make of it. What they make of
+// a number is what they make of its lowest byte, ^ the other bytes moved down:
+// so one look here takes the place of eight steps.
+var sumTable = func() [256]uint32 {
+	var table [256]uint32
+	for i := range table {
+		n := uint32(i)
+		for range 8 {
+			low := n & 1
+			n >>= 1
+			if low == 1 {
+				n ^= sumTurn
+			}
+		}
+		table[i] = n
+	}
+	return table
+}()
+
+// Sum tells a sum of bytes (A3).
+func Sum(data string) string {
+	n := uint32(sumStart)
+	for i := range len(data) {
+		n = n>>8 ^ sumTable[byte(n)^data[i]]
+	}
+	n ^= sumStart
+	return string([]byte{byte(n), byte(n >> 8), byte(n >> 16), byte(n >> 24)})
+}
