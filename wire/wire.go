@@ -4,9 +4,10 @@ package wire
 import "deduce/api"
 
 const (
-	groupBits = 7
-	groupMask = 1<<groupBits - 1
-	moreBit   = 1 << groupBits
+	groupBits  = 7
+	groupMask  = 1<<groupBits - 1
+	moreBit    = 1 << groupBits
+	numberBits = 63 // of a number that is not below 0
 )
 
 // Varint writes a number (A1).
@@ -24,12 +25,23 @@ func Varint(n int) (string, api.Errno) {
 
 // Unvarint reads one (A1).
 func Unvarint(data string, at int) (int, int, api.Errno) {
-	c := cursorAt(data, at)
-	n := c.number()
-	if c.err != api.OK {
-		return 0, 0, c.err
+	if at < 0 || at > len(data) {
+		return 0, 0, api.ErrRange
 	}
-	return n, c.at, api.OK
+	n, shift := 0, 0
+	for i := at; i < len(data) && shift < numberBits; i++ {
+		b := data[i]
+		n |= int(b&groupMask) << shift
+		if b < moreBit {
+			if b == 0 && i > at {
+				// Varint writes as few bytes as can be, so it ends with no group that is 0.
+				break
+			}
+			return n, i + 1, api.OK
+		}
+		shift += groupBits
+	}
+	return 0, 0, api.ErrData
 }
 
 // Fold makes a number of one with a sign (A2).
