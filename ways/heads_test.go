@@ -262,6 +262,18 @@ func TestMoreThanIsKeptInMind(t *testing.T) {
 	}
 }
 
+// More variables than a row has columns may be asked for at once.
+func TestManyVariables(t *testing.T) {
+	s := world("w a b c d e f g h, w a 1 2 3 4 5 6 7, w a 1 2 3 4 5 6 8, z q, z r, u a b c d e f g q")
+	rule := parsed(t, "p(A,H,N,Q) :- w(A,B,C,D,E,F,G,H), w(A,I,J,K,L,M,N,O), z(Q), not u(A,B,C,D,E,F,G,Q), not u(H,I,J,K,L,M,N,Q).")
+	want := "(a 7 6 q)(a 7 6 r)(a 7 g q)(a 7 g r)(a 8 6 q)(a 8 6 r)(a 8 g q)(a 8 g r)(a h 6 r)(a h g r)"
+	for _, first := range []int{-1, 0, 1, 2} {
+		if got := heads(s, rule, first, -1, all); got != want {
+			t.Errorf("%d first: %q, want %q", first, got, want)
+		}
+	}
+}
+
 // Twelve parts of which each has many rows: what was looked through is not looked
 // through again.
 func TestManyWays(t *testing.T) {
