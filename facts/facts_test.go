@@ -211,3 +211,100 @@ func TestRelations(t *testing.T) {
 		t.Errorf("an answer is kept: %s", got)
 	}
 }
+
+// What came ahead of a round is there, whichever round it is now.
+func TestBefore(t *testing.T) {
+	s, e := edges("a b", "b c")
+	for _, c := range []struct {
+		text  string
+		round int
+	}{{"c d", 1}, {"d e", 1}, {"e f", 4}} {
+		e.Add(row(s, c.text), c.round)
+	}
+	hold := func() {
+		t.Helper()
+		for round, want := range map[int]string{
+			-1: "", 0: "", 1: "ab bc", 2: "ab bc cd de", 4: "ab bc cd de", 5: "ab bc cd de ef", 9: "ab bc cd de ef",
+		} {
+			span := e.Before(round)
+			if got := found(s, e, "* *", span); got != want || span.Empty() != (want == "") {
+				t.Errorf("Before(%d): %q, %v, want %q", round, got, span.Empty(), want)
+			}
+		}
+	}
+	hold()
+	e.Turn()
+	hold()
+	if !facts.New().Relation("n", 1).Before(7).Empty() {
+		t.Error("a relation without rows")
+	}
+}
+
+func TestRowOf(t *testing.T) {
+	s, e := edges("a b")
+	e.Add(row(s, "b a"), 2)
+	s.Relation("flag", 0).Add(facts.Row{}, 3)
+	for _, c := range []struct {
+		name, texts string
+		round       int
+		there       bool
+	}{
+		{"e", "a b", 0, true}, {"e", "b a", 2, true}, {"e", "a a", 0, false}, {"e", "a new", 0, false}, {"e", "a", 0, false},
+		{"e", "a b a", 0, false}, {"e", "", 0, false}, {"f", "a b", 0, false}, {"flag", "", 3, true}, {"flag", "a", 0, false},
+	} {
+		texts := strings.Fields(c.texts)
+		r, there := s.Row(c.name, texts)
+		if there != c.there {
+			t.Errorf("Row(%s, %q): %v", c.name, texts, there)
+		}
+		if !there {
+			continue
+		}
+		if got := strings.Join(s.TextsOf(r[:len(texts)]), " "); got != c.texts {
+			t.Errorf("Row(%s, %q): %q", c.name, texts, got)
+		}
+		if round, there := s.Relation(c.name, len(texts)).Round(r); round != c.round || !there {
+			t.Errorf("Round(%s, %q): %d %v", c.name, texts, round, there)
+		}
+	}
+	if round, there := e.Round(row(s, "a a")); round != 0 || there {
+		t.Errorf("a row that is not there: %d", round)
+	}
+}
+
+func TestTidied(t *testing.T) {
+	n := api.Relation{Name: "n", Arity: 1, Rows: [][]string{{"b"}, {"a"}, {"b"}}}
+	e := api.Relation{Name: "e", Arity: 2}
+	wide := api.Relation{Name: "w", Arity: 9}
+	torn := api.Relation{Name: "n", Arity: 1, Rows: [][]string{{}}}
+	arities := map[string]int{"n": 1, "e": 3, "other": 0}
+	for _, c := range []struct {
+		given   []api.Relation
+		arities map[string]int
+		errno   api.Errno
+		at      int
+	}{
+		{nil, nil, api.OK, 0},
+		{[]api.Relation{n, e}, nil, api.OK, 0},
+		{[]api.Relation{n}, arities, api.OK, 0},
+		{[]api.Relation{n, e}, arities, api.ErrArity, 1},
+		{[]api.Relation{e, n}, arities, api.ErrArity, 0},
+		{[]api.Relation{n, n}, nil, api.ErrTwice, 1},
+		{[]api.Relation{n, e, n, wide}, nil, api.ErrTwice, 2},
+		{[]api.Relation{n, wide, n}, nil, api.ErrRange, 1},
+		{[]api.Relation{n, e, wide}, arities, api.ErrArity, 1},
+		// Of one relation: Tidy's, then ErrTwice, then ErrArity.
+		{[]api.Relation{n, torn}, arities, api.ErrArity, 1},
+		{[]api.Relation{n, {Name: "n", Arity: -1}}, arities, api.ErrRange, 1},
+		{[]api.Relation{n, {Name: "n", Arity: 2}}, arities, api.ErrTwice, 1},
+	} {
+		list, errno, at := facts.Tidied(c.given, c.arities)
+		if errno != c.errno || at != c.at || errno != api.OK && list != nil || errno == api.OK && len(list) != len(c.given) {
+			t.Errorf("Tidied(%v): %v, %d, %d, want %d, %d", c.given, list, errno, at, c.errno, c.at)
+		}
+	}
+	list, _, _ := facts.Tidied([]api.Relation{n}, nil)
+	if got := fmt.Sprint(list, n.Rows); got != "[{n 1 [[a] [b]]}] [[b] [a] [b]]" {
+		t.Error(got)
+	}
+}

@@ -44,7 +44,7 @@ func (x index) add(key Row, number int) { x[key] = append(x[key], number) }
 type Relation struct {
 	arity   int
 	rows    []Row
-	rounds  []int // of each row
+	rounds  []int // of each row: they rise
 	old     int   // so many were there when the round ahead began
 	now     int   // so many were there when this one began
 	indexes map[Columns]index
@@ -63,13 +63,21 @@ func (r *Relation) New() Span { return Span{r.old, r.now} }
 // Old is what is there and not new.
 func (r *Relation) Old() Span { return Span{0, r.old} }
 
+// Before is what came in rounds ahead of that one, be it in this round's spans or
+// not.
+func (r *Relation) Before(round int) Span {
+	to, _ := slices.BinarySearch(r.rounds, round)
+	return Span{0, to}
+}
+
 // Turn begins a round, and tells whether there is something new in it.
 func (r *Relation) Turn() bool {
 	r.old, r.now = r.now, len(r.rows)
 	return r.old < r.now
 }
 
-// Add adds a row, which came in that round, and tells whether it is a new one.
+// Add adds a row, which came in that round, no lower one than those ahead, and
+// tells whether it is a new one.
 func (r *Relation) Add(row Row, round int) bool {
 	if r.Has(row) {
 		return false
@@ -105,8 +113,8 @@ func cut(numbers []int, span Span) []int {
 	return numbers[from:to]
 }
 
-// round answers the round in which a row came, if it is there.
-func (r *Relation) round(row Row) (int, bool) {
+// Round answers the round in which a row came, if it is there.
+func (r *Relation) Round(row Row) (int, bool) {
 	numbers := r.index(r.whole())[row]
 	if len(numbers) == 0 {
 		return 0, false

@@ -44,21 +44,30 @@ func (s *Store) Give(given api.Relation) {
 	}
 }
 
-// Round answers the round in which a fact came, if it is there.
-func (s *Store) Round(name string, texts []string) (int, bool) {
+// Row answers the row of a fact, if it is there.
+func (s *Store) Row(name string, texts []string) (Row, bool) {
 	r := s.relations[name]
 	if r == nil || len(texts) != r.arity {
-		return 0, false
+		return Row{}, false
 	}
 	var row Row
 	for column, text := range texts {
 		number, known := s.find(text)
 		if !known {
-			return 0, false
+			return Row{}, false
 		}
 		row[column] = number
 	}
-	return r.round(row)
+	return row, r.Has(row)
+}
+
+// Round answers the round in which a fact came, if it is there.
+func (s *Store) Round(name string, texts []string) (int, bool) {
+	row, there := s.Row(name, texts)
+	if !there {
+		return 0, false
+	}
+	return s.relations[name].Round(row)
 }
 
 // Relations answers all that is kept, by the names, rising, with rows that rise.
@@ -74,11 +83,7 @@ func (s *Store) Relations() []api.Relation {
 func (s *Store) rowsOf(r *Relation) [][]string {
 	var list [][]string
 	for _, row := range r.rows {
-		texts := make([]string, r.arity)
-		for column := range texts {
-			texts[column] = s.Text(row[column])
-		}
-		list = append(list, texts)
+		list = append(list, s.TextsOf(row[:r.arity]))
 	}
 	return rows.Rise(list)
 }

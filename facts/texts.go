@@ -21,6 +21,15 @@ func (t *Texts) Number(text string) int {
 // Text answers the text of a number.
 func (t *Texts) Text(number int) string { return t.list[number] }
 
+// TextsOf answers the texts of numbers.
+func (t *Texts) TextsOf(numbers []int) []string {
+	texts := make([]string, len(numbers))
+	for i, number := range numbers {
+		texts[i] = t.Text(number)
+	}
+	return texts
+}
+
 // find answers the number of a text, if it has one.
 func (t *Texts) find(text string) (int, bool) {
 	number, known := t.numbers[text]

@@ -7,11 +7,11 @@ import (
 	"deduce/limits"
 )
 
-// arranged answers parts in the order in which they are looked at: the one whose
-// place is first, if there is one, then each time the one of which most is bound.
-func arranged(parts []part, first, variables int) []part {
-	left := slices.Clone(parts)
-	bound := make([]bool, variables)
+// arranged answers parts in the order in which they are looked at, where some
+// variables are bound: the one whose place is first, if there is one, then each
+// time the one of which most is bound.
+func arranged(parts []part, first int, bound []bool) []part {
+	left, bound := slices.Clone(parts), slices.Clone(bound)
 	var order []part
 	for len(left) > 0 {
 		next := slices.IndexFunc(left, func(p part) bool { return p.place == first })

@@ -1,5 +1,5 @@
 // Package ways finds the ways to put texts in the place of a rule's variables such
-// that all of its body holds: see doc/07-eval.md.
+// that all of its body holds: see doc/07-eval.md and doc/08-why.md.
 package ways
 
 import (
@@ -11,13 +11,17 @@ import (
 	"deduce/limits"
 )
 
+// Nowhere is the place of no part.
+const Nowhere = -1
+
 // Plan is a rule that is ready to be followed.
 type Plan struct {
 	texts     *facts.Texts
 	head      []term
 	parts     []part // of the body, in the order in which they are looked at
 	variables int
-	enough    int // so many parts bind all variables of the head
+	given     []bool // of each variable whether it is bound ahead of all parts
+	enough    int    // so many parts bind all variables of the head
 	stops     []stop
 }
 
@@ -36,19 +40,13 @@ type part struct {
 	terms    []term
 }
 
-// New makes a rule ready. The body's part of that number is looked at first; if
-// there is no such part, the order is free.
+// New makes a rule ready. The body's part at the place that is first is looked at
+// ahead of all others; if there is no such part, the order is free.
 func New(rule api.Rule, store *facts.Store, first int) *Plan {
 	m := maker{store: store, variables: map[string]int{}}
 	parts := m.parts(rule.Body)
 	head := m.terms(rule.Head.Args)
-	p := &Plan{texts: &store.Texts, head: head, variables: len(m.variables)}
-	p.parts = arranged(parts, first, p.variables)
-	p.enough = p.enoughParts()
-	for done := range p.parts {
-		p.stops = append(p.stops, p.stop(done))
-	}
-	return p
+	return m.plan(head, parts, first, make([]bool, len(m.variables)))
 }
 
 // maker gives variables numbers, in the order in which they first stand in the
@@ -94,12 +92,23 @@ func (m maker) term(from api.Term) term {
 	return term{variable: true, number: number}
 }
 
+// plan answers how the parts are looked at where some variables are given.
+func (m maker) plan(head []term, parts []part, first int, given []bool) *Plan {
+	p := &Plan{texts: &m.store.Texts, head: head, variables: len(m.variables), given: given}
+	p.parts = arranged(parts, first, given)
+	p.enough = p.enoughParts()
+	for done := range p.parts {
+		p.stops = append(p.stops, p.stop(done))
+	}
+	return p
+}
+
 // enoughParts tells how many parts there are up to the last one that binds a
 // variable of the head.
 func (p *Plan) enoughParts() int {
-	wanted := variablesOf(p.head)
+	wanted := p.free(p.head)
 	for done := range p.parts {
-		if within(wanted, variablesOf(termsOf(p.parts[:done]))) {
+		if within(wanted, p.free(termsOf(p.parts[:done]))) {
 			return done
 		}
 	}
@@ -111,6 +120,7 @@ func (p *Plan) enoughParts() int {
 type stop struct {
 	kept    []int // the bound variables that are still asked for
 	forgets bool  // whether the last part has a variable that no longer is
+	forgot  bool  // whether any part ahead has one
 }
 
 // stop answers that of so many parts. Where more variables are kept than a row has
@@ -119,14 +129,21 @@ func (p *Plan) stop(done int) stop {
 	if done == 0 {
 		return stop{}
 	}
-	asked := variablesOf(slices.Concat(p.head, termsOf(p.parts[done:])))
-	kept := slices.DeleteFunc(variablesOf(termsOf(p.parts[:done])), func(variable int) bool {
+	bound := p.free(termsOf(p.parts[:done]))
+	asked := p.free(slices.Concat(p.head, termsOf(p.parts[done:])))
+	kept := slices.DeleteFunc(slices.Clone(bound), func(variable int) bool {
 		return !slices.Contains(asked, variable)
 	})
-	if len(kept) > limits.MaxArity || within(variablesOf(p.parts[done-1].terms), asked) {
+	if len(kept) > limits.MaxArity {
 		return stop{}
 	}
-	return stop{kept: kept, forgets: true}
+	last := p.free(p.parts[done-1].terms)
+	return stop{kept: kept, forgets: !within(last, asked), forgot: len(kept) < len(bound)}
+}
+
+// free answers the variables among terms that are not given.
+func (p *Plan) free(terms []term) []int {
+	return slices.DeleteFunc(variablesOf(terms), func(variable int) bool { return p.given[variable] })
 }
 
 func termsOf(parts []part) []term {

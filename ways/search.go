@@ -2,14 +2,15 @@ package ways
 
 import (
 	"iter"
+	"slices"
 
 	"deduce/facts"
 	"deduce/kinds"
 )
 
-// mostVisits bounds what a search keeps in mind. When it has that much, it forgets
-// all of it, and may make some of the search again.
-const mostVisits = 1 << 18
+// mostMarks bounds what a search keeps in mind of so many parts done. When it has
+// that much, it forgets all of it, and may make some of the search again.
+const mostMarks = 1 << 16
 
 // Look tells which rows of its relation the atom at a place of the body may be.
 type Look func(place int, relation *facts.Relation) facts.Span
@@ -17,8 +18,13 @@ type Look func(place int, relation *facts.Relation) facts.Span
 // Heads hands out the rows that the head is in some way, each at least once, but
 // for those that are known by then. What is handed out may be made known at once.
 func (p *Plan) Heads(look Look, known func(facts.Row) bool) iter.Seq[facts.Row] {
+	return p.heads(open(p.variables), look, known)
+}
+
+// heads does so beside what is bound on a way.
+func (p *Plan) heads(on way, look Look, known func(facts.Row) bool) iter.Seq[facts.Row] {
 	return func(yield func(facts.Row) bool) {
-		s := &search{plan: p, look: look, way: open(p.variables), been: map[visit]struct{}{}}
+		s := p.search(on, look)
 		for way := range s.ways(0, p.enough) {
 			_, head := way.bound(p.head)
 			if known(head) {
@@ -35,19 +41,35 @@ func (p *Plan) Heads(look Look, known func(facts.Row) bool) iter.Seq[facts.Row] 
 	}
 }
 
-// search goes through the ways of a plan.
-type search struct {
-	plan *Plan
-	look Look
-	way  way
-	been map[visit]struct{}
+// Ways hands out every way, each once: the numbers of the texts, in the order in
+// which the variables first stand in the body. It stands until the next one is
+// asked for.
+func (p *Plan) Ways(look Look) iter.Seq[[]int] {
+	return func(yield func([]int) bool) {
+		s := p.search(open(p.variables), look)
+		s.every = true
+		for way := range s.ways(0, len(p.parts)) {
+			if !yield(way) {
+				return
+			}
+		}
+	}
 }
 
-// visit is how many parts were done, and with which texts in the place of what
-// the others hang on.
-type visit struct {
-	done  int
-	texts facts.Row
+// search goes through the ways of a plan.
+type search struct {
+	plan  *Plan
+	look  Look
+	way   way
+	every bool // whether every way is wanted, or one for each head
+	// marks has of so many parts done the texts in the place of what the others
+	// hang on, with which it is not to be gone on. (Those of few parts spare most:
+	// they are not forgotten for those of many.)
+	marks []map[facts.Row]struct{}
+}
+
+func (p *Plan) search(on way, look Look) *search {
+	return &search{plan: p, look: look, way: slices.Clone(on), marks: make([]map[facts.Row]struct{}, len(p.parts))}
 }
 
 // ways hands out each way in which the parts from the one number on, up to the
@@ -58,36 +80,64 @@ func (s *search) ways(done, all int) iter.Seq[way] {
 			yield(s.way)
 			return
 		}
-		if s.again(done) {
+		if s.marked(done) {
 			return
 		}
+		some := false
 		for range s.holds(s.plan.parts[done]) {
 			for way := range s.ways(done+1, all) {
+				some = true
 				if !yield(way) {
 					return
 				}
 			}
 		}
+		// From here there is nothing, or there are heads that have been found.
+		if !some || !s.every {
+			s.mark(done)
+		}
 	}
 }
 
-// again tells whether so many parts have been done before with the same texts for
-// all that is still asked for: what is found from here on has been found then.
-func (s *search) again(done int) bool {
-	stop := s.plan.stops[done]
-	if !stop.forgets {
+// marked tells whether it is not to be gone on with what is bound.
+func (s *search) marked(done int) bool {
+	if !s.forgetful(done) {
 		return false
 	}
-	v := visit{done: done}
-	for i, variable := range stop.kept {
-		v.texts[i] = s.way[variable]
+	_, is := s.marks[done][s.kept(done)]
+	return is
+}
+
+// mark keeps in mind not to go on again with what is bound, if it may be bound so
+// again.
+func (s *search) mark(done int) {
+	if !s.forgetful(done) {
+		return
 	}
-	_, been := s.been[v]
-	if len(s.been) == mostVisits {
-		clear(s.been)
+	if s.marks[done] == nil {
+		s.marks[done] = map[facts.Row]struct{}{}
 	}
-	s.been[v] = struct{}{}
-	return been
+	if len(s.marks[done]) == mostMarks {
+		clear(s.marks[done])
+	}
+	s.marks[done][s.kept(done)] = struct{}{}
+}
+
+// kept answers the texts of what is bound and still asked for.
+func (s *search) kept(done int) facts.Row {
+	var texts facts.Row
+	for i, variable := range s.plan.stops[done].kept {
+		texts[i] = s.way[variable]
+	}
+	return texts
+}
+
+// forgetful tells whether with so many parts done the same may be bound again. A
+// search for heads is stopped where a variable has just been forgotten, and so does
+// not come again to what is behind; one for every way may.
+func (s *search) forgetful(done int) bool {
+	stop := s.plan.stops[done]
+	return stop.forgets || s.every && stop.forgot
 }
 
 // holds hands out a turn for each way in which a part holds, with what the part

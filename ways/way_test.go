@@ -18,7 +18,7 @@ func TestWaysTakeBack(t *testing.T) {
 	p := New(rules[0], s, -1)
 	all := func(_ int, r *facts.Relation) facts.Span { return r.All() }
 	for most := range 9 {
-		search := &search{plan: p, look: all, way: open(p.variables), been: map[visit]struct{}{}}
+		search := p.search(open(p.variables), all)
 		count := 0
 		for way := range search.ways(0, len(p.parts)) {
 			if slices.Contains(way, none) {

@@ -1,4 +1,4 @@
-package eval
+package model
 
 import (
 	"iter"
@@ -7,9 +7,6 @@ import (
 	"deduce/facts"
 	"deduce/ways"
 )
-
-// nowhere is the place of no part.
-const nowhere = -1
 
 // follower follows a rule. Of the atom at its place it looks at new facts alone,
 // so that no two followers of a rule go the same way: of those ahead of it at old
@@ -22,26 +19,26 @@ type follower struct {
 }
 
 // follower answers one who follows a rule with all that is there.
-func (m *model) follower(rule api.Rule) follower {
-	return follower{head: m.relation(rule.Head), plan: ways.New(rule, m.store, nowhere), place: nowhere}
+func (m *Model) follower(rule api.Rule) follower {
+	return follower{head: m.relationOf(rule.Head), plan: ways.New(rule, m.Store, ways.Nowhere), place: ways.Nowhere}
 }
 
 // followerOf answers one who follows a rule with what is new of one of its atoms.
-func (m *model) followerOf(rule api.Rule, place int) follower {
+func (m *Model) followerOf(rule api.Rule, place int) follower {
 	return follower{
-		head:  m.relation(rule.Head),
-		plan:  ways.New(rule, m.store, place),
+		head:  m.relationOf(rule.Head),
+		plan:  ways.New(rule, m.Store, place),
 		place: place,
-		part:  m.relation(rule.Body[place].Atom),
+		part:  m.relationOf(rule.Body[place].Atom),
 	}
 }
 
-func (m *model) relation(atom api.Atom) *facts.Relation {
-	return m.store.Relation(atom.Name, len(atom.Args))
+func (m *Model) relationOf(atom api.Atom) *facts.Relation {
+	return m.Relation(atom.Name, len(atom.Args))
 }
 
 // idle tells whether there is nothing new to look at.
-func (f follower) idle() bool { return f.place != nowhere && f.part.New().Empty() }
+func (f follower) idle() bool { return f.place != ways.Nowhere && f.part.New().Empty() }
 
 // news hands out the rows that the rule tells of and the head's relation has not.
 func (f follower) news() iter.Seq[facts.Row] {

@@ -1,14 +1,20 @@
-package eval
+// Package model follows rules until nothing new follows: see doc/07-eval.md.
+package model
 
 import (
 	"deduce/api"
+	"deduce/check"
 	"deduce/facts"
 	"deduce/kinds"
+	"deduce/limits"
+	"deduce/syntax"
+	"deduce/walk"
 )
 
-// model has all facts that are there so far.
-type model struct {
-	store   *facts.Store
+// Model has all facts that are there so far.
+type Model struct {
+	*facts.Store
+	rules   []api.Rule
 	numbers map[string]int // of each name's level
 	levels  []level
 	most    int
@@ -22,32 +28,68 @@ type level struct {
 	later     []follower        // and in those behind it
 }
 
-// newModel answers a model without facts, of rules that were checked.
-func newModel(rules []api.Rule, levels []api.Level, most int) *model {
-	m := &model{store: facts.New(), numbers: map[string]int{}, most: most}
+// Of answers the model of rules and relations, if it has no more than most facts
+// (G2).
+func Of(text string, given []api.Relation, most int) (*Model, api.Errno, int) {
+	if most < 0 || most > limits.MaxFacts {
+		return nil, api.ErrRange, 0
+	}
+	levels, errno, at := check.Levels(text)
+	if errno != api.OK {
+		return nil, errno, at
+	}
+	rules, _, _ := syntax.Parse(text)
 	arities := aritiesOf(rules)
+	tidy, errno, at := facts.Tidied(given, arities)
+	if errno != api.OK {
+		return nil, errno, at
+	}
+	m := &Model{Store: facts.New(), rules: rules, numbers: map[string]int{}, most: most}
+	m.lay(levels, arities)
+	if !m.give(tidy) || !m.follow() {
+		return nil, api.ErrMany, 0
+	}
+	return m, api.OK, 0
+}
+
+// aritiesOf answers how many terms the atoms of each name have.
+func aritiesOf(rules []api.Rule) map[string]int {
+	arities := map[string]int{}
+	for atom := range walk.Each(rules, walk.Atoms) {
+		arities[atom.Name] = len(atom.Args)
+	}
+	return arities
+}
+
+// Rules answers the rules, in their order.
+func (m *Model) Rules() []api.Rule { return m.rules }
+
+// Level answers the number of a name's level.
+func (m *Model) Level(name string) int { return m.numbers[name] }
+
+// lay makes the levels ready, without facts.
+func (m *Model) lay(levels []api.Level, arities map[string]int) {
 	for _, l := range levels {
 		m.numbers[l.Name] = l.Number
 		for len(m.levels) <= l.Number {
 			m.levels = append(m.levels, level{})
 		}
-		relation := m.store.Relation(l.Name, arities[l.Name])
+		relation := m.Relation(l.Name, arities[l.Name])
 		m.levels[l.Number].relations = append(m.levels[l.Number].relations, relation)
 	}
-	for _, rule := range rules {
+	for _, rule := range m.rules {
 		m.prepare(rule)
 	}
-	return m
 }
 
 // prepare lays down how a rule is followed: in the first round with all that is
 // there; later, for each atom that may have something new, with that alone.
-func (m *model) prepare(rule api.Rule) {
-	number := m.numbers[rule.Head.Name]
+func (m *Model) prepare(rule api.Rule) {
+	number := m.Level(rule.Head.Name)
 	at := &m.levels[number]
 	at.first = append(at.first, m.follower(rule))
 	for place, part := range rule.Body {
-		if part.Kind == kinds.Atom && m.numbers[part.Atom.Name] == number {
+		if part.Kind == kinds.Atom && m.Level(part.Atom.Name) == number {
 			at.later = append(at.later, m.followerOf(rule, place))
 		}
 	}
@@ -55,7 +97,7 @@ func (m *model) prepare(rule api.Rule) {
 
 // give adds relations that are given, and tells whether there are not too many
 // facts.
-func (m *model) give(given []api.Relation) bool {
+func (m *Model) give(given []api.Relation) bool {
 	for _, relation := range given {
 		m.count += len(relation.Rows)
 	}
@@ -63,14 +105,14 @@ func (m *model) give(given []api.Relation) bool {
 		return false
 	}
 	for _, relation := range given {
-		m.store.Give(relation)
+		m.Give(relation)
 	}
 	return true
 }
 
 // follow adds all that follows, level by level (G1), and tells whether there are
 // not too many facts.
-func (m *model) follow() bool {
+func (m *Model) follow() bool {
 	for _, l := range m.levels {
 		l.turn()
 		followers := l.first
@@ -100,7 +142,7 @@ func (l level) turn() bool {
 
 // round adds what rules tell of the facts that were there when it began, and
 // tells whether there are not too many facts.
-func (m *model) round(followers []follower, round int) bool {
+func (m *Model) round(followers []follower, round int) bool {
 	for _, f := range followers {
 		if f.idle() {
 			continue
